@@ -62,6 +62,7 @@ func inodeFaults() []fault {
 
 func rootFaults() []fault {
 	return []fault{
+		{"the root is a file", api.ErrShape, func(w *world) { w.edit(2, func(d *api.Dinode) { d.Mode = api.ModeFile }) }},
 		{"a root's block that may not be", api.ErrShape, func(w *world) { w.image[w.addr(2, 1)][127] = 1 }},
 		{"the root's . is another one", api.ErrShape, func(w *world) { w.slot(2, 0, 0, entry(4, ".")) }},
 		{"a root's name is no used inode's", api.ErrOut, func(w *world) { w.slot(2, 0, 3, entry(30, "no")) }},
