@@ -76,7 +76,7 @@ func (f *FS) write(c api.Call) (api.Answer, api.Errno) {
 	case c.Off > api.MaxFile-len(c.Bytes): // their sum might be more than an int has
 		return api.Answer{}, api.ErrBig
 	}
-	if _, why := file.Write(f.volume, f.geom, ino, c.Off, c.Bytes); why != api.OK {
+	if why := f.change(func(ch *change) { ch.write(ino, c.Off, c.Bytes) }); why != api.OK {
 		return api.Answer{}, why
 	}
 	return api.Answer{N: len(c.Bytes)}, api.OK
@@ -92,8 +92,7 @@ func (f *FS) truncate(c api.Call) (api.Answer, api.Errno) {
 	case c.N > api.MaxFile:
 		return api.Answer{}, api.ErrBig
 	}
-	_, why = file.Truncate(f.volume, f.geom, ino, c.N)
-	return api.Answer{}, why
+	return api.Answer{}, f.change(func(ch *change) { ch.truncate(ino, c.N) })
 }
 
 func (f *FS) fsync(c api.Call) (api.Answer, api.Errno) {
